@@ -94,12 +94,19 @@ func TestRun(t *testing.T) {
 	}
 }
 
-// P8.3: Run returns ErrForm if s is no text, wherever the word leads.
+// P8.3: Run returns ErrForm if s is no text, wherever the word leads; but first the error of Check.
 func TestRunForm(t *testing.T) {
 	for _, a := range []api.Auto{none(), all(), made(t, "a*"), made(t, "b")} {
 		for _, s := range []string{"\xff", "\x00", "a\x00", "\x0b", "b\xc3", "bb\xff", "c\xff", "\xed\xa0\x80", "a\xef\xbf\xbe", "\xc0\xaf", strings.Repeat("a", 2000000) + "\x1f"} {
 			if got, e := regauto.Run(a, s); got || e != api.ErrForm {
 				t.Errorf("Run(%s, %.50q): %v, %d", show(a), s, got, e)
+			}
+		}
+	}
+	for _, a := range slices.Concat(large(), notValid()) {
+		for _, s := range []string{"", "a", "\xff"} {
+			if got, e := regauto.Run(a, s); got || e != regauto.Check(a) {
+				t.Errorf("Run(%s, %.50q): %v, %d, want %d", show(a), s, got, e, regauto.Check(a))
 			}
 		}
 	}
